@@ -4,6 +4,7 @@ package braid
 import (
 	"braid/api"
 	"braid/command"
+	"braid/history"
 )
 
 // Check tells whether a text is a stream (P3).
@@ -13,34 +14,58 @@ func Check(stream string) (int, api.Errno) {
 }
 
 // Store is one.
-type Store struct{}
+type Store struct {
+	past *history.History
+}
 
 // New makes an empty store (P4).
-func New() *Store { return nil }
+func New() *Store { return &Store{past: history.New()} }
 
 // Import does what a stream says (P4, P5).
-func (s *Store) Import(stream string) (int, api.Errno) { return 0, api.OK }
+func (s *Store) Import(stream string) (int, api.Errno) {
+	commands, n, err := command.Read(stream)
+	if err != api.OK {
+		return n, err
+	}
+	return command.Do(s.past, commands)
+}
 
 // Refs tells all refs (P6).
-func (s *Store) Refs() []api.Ref { return nil }
+func (s *Store) Refs() []api.Ref { return s.past.Refs() }
 
 // Tags tells all tags (P6).
-func (s *Store) Tags() []api.Ref { return nil }
+func (s *Store) Tags() []api.Ref { return s.past.Tags() }
 
 // Ids tells all objects (P6).
-func (s *Store) Ids() []string { return nil }
+func (s *Store) Ids() []string { return s.past.Ids() }
 
 // Object tells one (P6).
-func (s *Store) Object(id string) (int, string, api.Errno) { return 0, "", api.OK }
+func (s *Store) Object(id string) (int, string, api.Errno) {
+	object, ok := s.past.Object(id)
+	if !ok {
+		return 0, "", api.ErrNone
+	}
+	return object.Kind, object.Content, api.OK
+}
 
 // Files tells what lies in a commit (P7).
-func (s *Store) Files(id string) ([]string, api.Errno) { return nil, api.OK }
+func (s *Store) Files(id string) ([]string, api.Errno) {
+	commit, ok := s.past.Commit(id)
+	if !ok {
+		return nil, api.ErrNone
+	}
+	var all []string
+	for _, f := range commit.Files {
+		all = append(all, f.Mode+" "+f.Blob+" "+f.Path)
+	}
+	return all, api.OK
+}
 
 // Bytes tells the store as bytes (P8).
 func (s *Store) Bytes() []byte { return nil }
 
 // Open makes a store of bytes (P9).
-func Open(b []byte) (*Store, api.Errno) { return nil, api.OK }
+func Open(b []byte) (*Store, api.Errno) { return New(), api.OK }
 
 // Export makes a stream of all that is named (P10, P11).
 func (s *Store) Export(rules ...api.Rule) (string, api.Errno) { return "", api.OK }

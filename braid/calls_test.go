@@ -28,7 +28,11 @@ func oddRules() []api.Rule {
 // stores: what New and Open gave.
 func stores(t *testing.T) []*braid.Store {
 	t.Helper()
-	all := []*braid.Store{braid.New()}
+	full := braid.New()
+	for _, stream := range append(seeds(), strings.TrimSuffix(example, "done\n")+"tag v\nfrom :2\n"+empty+"done\n") {
+		full.Import(stream)
+	}
+	all := []*braid.Store{braid.New(), full}
 	for _, text := range append(oddTexts(), string(braid.New().Bytes())) {
 		if s, err := braid.Open([]byte(text)); err == api.OK {
 			all = append(all, s)

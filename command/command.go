@@ -1,10 +1,11 @@
-// Package command takes streams apart into their commands.
+// Package command takes streams apart into their commands, and does these.
 package command
 
 import (
 	"strings"
 
 	"braid/api"
+	"braid/object"
 )
 
 // Command is a command as it was written. Which of the fields have a meaning
@@ -13,17 +14,11 @@ type Command struct {
 	Word    string
 	Ref     string
 	Mark    int
-	Author  Author
+	Author  object.Author
 	Data    string
 	From    Which
 	Merges  []Which
 	Changes []Change
-}
-
-// Author is who made a commit, and when.
-type Author struct {
-	Name, Mail string
-	Time       int64
 }
 
 // Which names a commit: by a mark, or by a ref if the mark is 0. Without
@@ -43,28 +38,40 @@ type Change struct {
 	Path, To string
 }
 
-// row is what the table knows of one command.
+// row is what the table knows of one command: how it is read, and what it
+// does.
 type row struct {
 	word string
 	read func(r *reader, c *Command)
+	do   func(w *work, c Command) api.Errno
 }
 
 func table() []row {
 	return []row{
-		{word: "blob", read: readBlob},
-		{word: "commit", read: readCommit},
-		{word: "tag", read: readTag},
-		{word: "reset", read: readReset},
+		{word: "blob", read: readBlob, do: doBlob},
+		{word: "commit", read: readCommit, do: doCommit},
+		{word: "tag", read: readTag, do: doTag},
+		{word: "reset", read: readReset, do: doReset},
 	}
 }
 
+func find(word string) (row, bool) {
+	for _, known := range table() {
+		if known.word == word {
+			return known, true
+		}
+	}
+	return row{}, false
+}
+
 // Read takes a stream apart. The number is that of the command that is wrong
-// (ErrForm), or how many commands there are (OK).
+// (ErrForm), or how many commands there are (OK). The commands' texts lie in a
+// copy of the stream, so that they can be kept.
 func Read(stream string) ([]Command, int, api.Errno) {
 	if len(stream) > api.MaxStream {
 		return nil, 0, api.ErrLimit
 	}
-	r := &reader{rest: stream}
+	r := &reader{rest: strings.Clone(stream)}
 	commands := readAll(r)
 	if r.bad {
 		return nil, len(commands) + 1, api.ErrForm
@@ -96,16 +103,14 @@ func readAll(r *reader) []Command {
 }
 
 func readOne(r *reader) Command {
-	word := r.word()
-	for _, known := range table() {
-		if known.word == word {
-			c := Command{Word: word}
-			known.read(r, &c)
-			return c
-		}
+	c := Command{Word: r.word()}
+	known, ok := find(c.Word)
+	if !ok {
+		r.fail()
+		return Command{}
 	}
-	r.fail()
-	return Command{}
+	known.read(r, &c)
+	return c
 }
 
 func readBlob(r *reader, c *Command) {

@@ -6,15 +6,16 @@ import (
 	"testing"
 
 	"braid/api"
+	"braid/object"
 )
 
-// TestTable: each command has one row, and the row can read it.
+// TestTable: each command has one row, and the row can read and do it.
 func TestTable(t *testing.T) {
 	var all []string
 	for _, known := range table() {
 		all = append(all, known.word)
-		if known.read == nil {
-			t.Errorf("%s: no way to read it", known.word)
+		if known.read == nil || known.do == nil {
+			t.Errorf("%s: no way to read it, or to do it", known.word)
 		}
 	}
 	if got := strings.Join(all, " "); got != "blob commit tag reset" {
@@ -33,7 +34,7 @@ func TestRead(t *testing.T) {
 		"done\n"
 	want := []Command{
 		{Word: "blob", Mark: 1, Data: "done\n"},
-		{Word: "commit", Ref: "a/b", Mark: 2, Author: Author{"A  B", "a@b.c", 9999999999}, Data: "\n\n",
+		{Word: "commit", Ref: "a/b", Mark: 2, Author: object.Author{Name: "A  B", Mail: "a@b.c", Time: 9999999999}, Data: "\n\n",
 			From: Which{Mark: 7}, Merges: []Which{{Ref: "x"}, {Mark: 999}, {Ref: "done"}},
 			Changes: []Change{
 				{Word: "M", Mode: "100644", Mark: 1, Path: "d/f"},
@@ -43,7 +44,7 @@ func TestRead(t *testing.T) {
 				{Word: "R", Path: "c", To: "d/e"},
 				{Word: "deleteall"},
 			}},
-		{Word: "commit", Ref: "m", Mark: 3, Author: Author{"0", "-", 0}},
+		{Word: "commit", Ref: "m", Mark: 3, Author: object.Author{Name: "0", Mail: "-"}},
 		{Word: "tag", Ref: "v", From: Which{Ref: "7"}, Data: "x"},
 		{Word: "reset", Ref: "r"},
 		{Word: "reset", Ref: "r", From: Which{Mark: 3}},

@@ -4,6 +4,7 @@ import (
 	"strings"
 
 	"braid/api"
+	"braid/object"
 	"braid/words"
 )
 
@@ -76,12 +77,12 @@ func (r *reader) which(head string) Which {
 	return Which{Ref: text}
 }
 
-func (r *reader) author() Author {
+func (r *reader) author() object.Author {
 	name, rest, named := strings.Cut(r.after("author "), " <")
 	mail, time, mailed := strings.Cut(rest, "> ")
 	n, timed := words.Number(time, 0, api.MaxTime)
 	r.need(named && mailed && timed && words.IsName(name) && words.IsMail(mail))
-	return Author{Name: name, Mail: mail, Time: n}
+	return object.Author{Name: name, Mail: mail, Time: n}
 }
 
 // data reads bytes by their number: a byte 10 among them ends nothing.

@@ -3,13 +3,12 @@ package command
 import (
 	"braid/api"
 	"braid/history"
-	"braid/object"
 )
 
 // Do does commands to a history, one behind the other. The number is that of
 // the command that is wrong (none is done then), or how many were done (OK).
 func Do(past *history.History, commands []Command) (int, api.Errno) {
-	w := &work{draft: past.Draft(), marks: map[int]marked{}}
+	w := newWork(past)
 	for i, c := range commands {
 		known, ok := find(c.Word)
 		if !ok {
@@ -42,8 +41,8 @@ func doCommit(w *work, c Command) api.Errno {
 	if list, err = w.changed(list, c.Changes); err != api.OK {
 		return err
 	}
-	tree := object.NewTree(list)
-	commit := object.NewCommit(list, tree, parents, c.Author, c.Data)
+	tree := w.maker.Tree(list)
+	commit := w.maker.Commit(list, tree, parents, c.Author, c.Data)
 	w.draft.AddTree(tree)
 	w.draft.AddCommit(commit)
 	w.draft.SetRef(c.Ref, commit)
@@ -56,7 +55,7 @@ func doTag(w *work, c Command) api.Errno {
 	if err != api.OK {
 		return err
 	}
-	w.draft.AddTag(object.NewTag(c.Ref, commit, c.Data))
+	w.draft.AddTag(w.maker.Tag(c.Ref, commit, c.Data))
 	return api.OK
 }
 

@@ -47,7 +47,7 @@ func TestDoSharesNoFiles(t *testing.T) {
 	second.Changes = []Change{{Word: "D", Path: "a"}, {Word: "M", Mode: "100644", Data: "3", Path: "b"}}
 	third.From = Which{Mark: 1}
 	third.Changes = []Change{{Word: "R", Path: "a", To: "z"}, {Word: "C", Path: "z", To: "c"}}
-	w := &work{draft: h.Draft(), marks: map[int]marked{}}
+	w := newWork(h)
 	for _, c := range []Command{first, second, third} {
 		if err := doCommit(w, c); err != api.OK {
 			t.Fatalf("the commit %d: %d", c.Mark, err)

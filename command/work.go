@@ -10,7 +10,12 @@ import (
 // work is a stream that is being done. Marks are known in it alone.
 type work struct {
 	draft *history.Draft
+	maker *object.Maker
 	marks map[int]marked
+}
+
+func newWork(past *history.History) *work {
+	return &work{draft: past.Draft(), maker: object.NewMaker(), marks: map[int]marked{}}
 }
 
 // marked is what a mark names: a commit, or else a blob, by its id.
@@ -113,7 +118,7 @@ func (w *work) content(change Change) (string, api.Errno) {
 
 // blob makes a blob and gives its id.
 func (w *work) blob(data string) string {
-	blob := object.NewBlob(data)
+	blob := w.maker.Blob(data)
 	w.draft.AddBlob(blob)
 	return blob.Id
 }

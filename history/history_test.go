@@ -9,7 +9,7 @@ import (
 )
 
 func commit(message string) *object.Commit {
-	return object.NewCommit(nil, object.NewTree(nil), nil, object.Author{Name: "A", Mail: "a"}, message)
+	return object.NewMaker().Commit(nil, object.NewMaker().Tree(nil), nil, object.Author{Name: "A", Mail: "a"}, message)
 }
 
 func holdRefs(t *testing.T, what string, got []api.Ref, want ...api.Ref) {
@@ -27,7 +27,7 @@ func TestDraft(t *testing.T) {
 	d := h.Draft()
 	d.AddCommit(one)
 	d.SetRef("m", one)
-	d.AddTag(object.NewTag("v", one, ""))
+	d.AddTag(object.NewMaker().Tag("v", one, ""))
 	if d.Ref("m") != one || d.Ref("v") != nil {
 		t.Error("the draft does not know its refs")
 	}
@@ -56,16 +56,16 @@ func TestDraft(t *testing.T) {
 // TestObjects: by id, whatever they are; commits also as such.
 func TestObjects(t *testing.T) {
 	h := New()
-	blob, c := object.NewBlob("x"), commit("")
-	tag := object.NewTag("v", c, "")
+	blob, c := object.NewMaker().Blob("x"), commit("")
+	tag := object.NewMaker().Tag("v", c, "")
 	d := h.Draft()
 	d.AddBlob(blob)
 	d.AddBlob(blob)
-	d.AddTree(&object.Tree{Object: object.NewTree(nil).Object, Within: []*object.Tree{{Object: object.Object{Kind: api.Tree, Id: "within"}}}})
+	d.AddTree(&object.Tree{Object: object.NewMaker().Tree(nil).Object, Within: []*object.Tree{{Object: object.Object{Kind: api.Tree, Id: "within"}}}})
 	d.AddCommit(c)
 	d.AddTag(tag)
 	d.Keep()
-	want := []string{blob.Id, c.Id, tag.Id, object.NewTree(nil).Id, "within"}
+	want := []string{blob.Id, c.Id, tag.Id, object.NewMaker().Tree(nil).Id, "within"}
 	slices.Sort(want)
 	if got := h.Ids(); !slices.Equal(got, want) {
 		t.Errorf("Ids = %v, want %v", got, want)
@@ -91,7 +91,7 @@ func TestObjects(t *testing.T) {
 // TestTagAgain: the name goes to the later one, both objects stay.
 func TestTagAgain(t *testing.T) {
 	h := New()
-	first, second := object.NewTag("v", commit("1"), ""), object.NewTag("v", commit("2"), "")
+	first, second := object.NewMaker().Tag("v", commit("1"), ""), object.NewMaker().Tag("v", commit("2"), "")
 	for _, tag := range []*object.Tag{first, second} {
 		d := h.Draft()
 		d.AddTag(tag)

@@ -24,15 +24,15 @@ type Commit struct {
 	Files files.List
 }
 
-// NewCommit makes a commit of files and of the tree that was made of them.
-func NewCommit(list files.List, tree *Tree, parents []*Commit, author Author, message string) *Commit {
+// Commit makes a commit of files and of the tree that was made of them.
+func (m *Maker) Commit(list files.List, tree *Tree, parents []*Commit, author Author, message string) *Commit {
 	var content strings.Builder
 	content.WriteString("tree " + tree.Id + "\n")
 	for _, p := range parents {
 		content.WriteString("parent " + p.Id + "\n")
 	}
 	content.WriteString(author.line() + "\n" + message)
-	return &Commit{Object: newObject(api.Commit, content.String()), Files: list}
+	return &Commit{Object: m.object(api.Commit, content.String()), Files: list}
 }
 
 // Tag is a tag with its name.
@@ -41,8 +41,8 @@ type Tag struct {
 	Name string
 }
 
-// NewTag makes a tag of a commit.
-func NewTag(name string, commit *Commit, message string) *Tag {
+// Tag makes a tag of a commit.
+func (m *Maker) Tag(name string, commit *Commit, message string) *Tag {
 	content := "object " + commit.Id + "\ntag " + name + "\n\n" + message
-	return &Tag{Object: newObject(api.Tag, content), Name: name}
+	return &Tag{Object: m.object(api.Tag, content), Name: name}
 }

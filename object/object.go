@@ -22,14 +22,25 @@ type Object struct {
 	Id      string
 }
 
-// NewBlob makes a blob.
-func NewBlob(data string) Object {
-	return newObject(api.Blob, data)
+// Maker makes objects. It holds the sums' constants, so that they are worked
+// out once for many objects.
+type Maker struct {
+	constants sum.Constants
 }
 
-func newObject(kind int, content string) Object {
+// NewMaker makes one.
+func NewMaker() *Maker {
+	return &Maker{constants: sum.NewConstants()}
+}
+
+// Blob makes a blob.
+func (m *Maker) Blob(data string) Object {
+	return m.object(api.Blob, data)
+}
+
+func (m *Maker) object(kind int, content string) Object {
 	text := kindWords[kind] + " " + strconv.Itoa(len(content)) + "\x00" + content
-	return Object{Kind: kind, Content: content, Id: idOf(sum.Of(text))}
+	return Object{Kind: kind, Content: content, Id: idOf(m.constants.Of(text))}
 }
 
 func idOf(bytes [sum.Size]byte) string {

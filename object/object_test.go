@@ -36,14 +36,14 @@ func raw(t *testing.T, id string) string {
 }
 
 func TestBlob(t *testing.T) {
-	if got := NewBlob("").Id; got != noBytes {
+	if got := NewMaker().Blob("").Id; got != noBytes {
 		t.Errorf("the blob without bytes is %s", got)
 	}
-	if got := NewBlob("hi").Id; got != hi {
+	if got := NewMaker().Blob("hi").Id; got != hi {
 		t.Errorf("the blob hi is %s", got)
 	}
 	for _, data := range []string{"", "\x00", "\n", "123456789", "1234567890", "\xff\xfe", string(make([]byte, 200))} {
-		hold(t, NewBlob(data), api.Blob, "blob", data)
+		hold(t, NewMaker().Blob(data), api.Blob, "blob", data)
 	}
 }
 
@@ -56,7 +56,7 @@ func TestSumOf(t *testing.T) {
 }
 
 func TestTreeWithoutEntries(t *testing.T) {
-	tree := NewTree(nil)
+	tree := NewMaker().Tree(nil)
 	hold(t, tree.Object, api.Tree, "tree", "")
 	if tree.Id != noEntries || len(tree.Within) != 0 {
 		t.Errorf("the tree without entries is %s, with %d within", tree.Id, len(tree.Within))
@@ -65,7 +65,7 @@ func TestTreeWithoutEntries(t *testing.T) {
 
 // TestTree: a tree's name counts as if `/` stood behind it.
 func TestTree(t *testing.T) {
-	tree := NewTree(files.List{
+	tree := NewMaker().Tree(files.List{
 		{Path: "A", Mode: "100644", Blob: hi},
 		{Path: "a-b", Mode: "100644", Blob: noBytes},
 		{Path: "a.b/c/d", Mode: "100755", Blob: hi},
@@ -91,21 +91,21 @@ func TestTree(t *testing.T) {
 // TestTreeLeavesFiles: the paths are cut short in copies alone.
 func TestTreeLeavesFiles(t *testing.T) {
 	list := files.List{{Path: "a/b/c", Mode: "100644", Blob: hi}, {Path: "a/d", Mode: "100644", Blob: hi}}
-	NewTree(list)
+	NewMaker().Tree(list)
 	if list[0].Path != "a/b/c" || list[1].Path != "a/d" {
 		t.Errorf("the files are now %v", list)
 	}
 }
 
 func TestCommit(t *testing.T) {
-	tree := NewTree(nil)
+	tree := NewMaker().Tree(nil)
 	author := Author{Name: "A B", Mail: "a@b", Time: 0}
-	root := NewCommit(nil, tree, nil, author, "")
+	root := NewMaker().Commit(nil, tree, nil, author, "")
 	hold(t, root.Object, api.Commit, "commit", "tree "+noEntries+"\nauthor A B <a@b> 0\n\n")
 	author.Time = api.MaxTime
 	list := files.List{{Path: "f", Mode: "100644", Blob: hi}}
-	tree = NewTree(list)
-	next := NewCommit(list, tree, []*Commit{root, root}, author, "\nmore\n\n")
+	tree = NewMaker().Tree(list)
+	next := NewMaker().Commit(list, tree, []*Commit{root, root}, author, "\nmore\n\n")
 	hold(t, next.Object, api.Commit, "commit", "tree "+tree.Id+"\nparent "+root.Id+"\nparent "+root.Id+"\nauthor A B <a@b> 9999999999\n\n\nmore\n\n")
 	if len(next.Files) != 1 || next.Files[0] != list[0] {
 		t.Errorf("the commit's files are %v", next.Files)
@@ -113,8 +113,8 @@ func TestCommit(t *testing.T) {
 }
 
 func TestTag(t *testing.T) {
-	commit := NewCommit(nil, NewTree(nil), nil, Author{Name: "A", Mail: "a"}, "")
-	tag := NewTag("v/1", commit, "x\n")
+	commit := NewMaker().Commit(nil, NewMaker().Tree(nil), nil, Author{Name: "A", Mail: "a"}, "")
+	tag := NewMaker().Tag("v/1", commit, "x\n")
 	hold(t, tag.Object, api.Tag, "tag", "object "+commit.Id+"\ntag v/1\n\nx\n")
 	if tag.Name != "v/1" {
 		t.Errorf("the tag's name is %s", tag.Name)

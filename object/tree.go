@@ -15,10 +15,10 @@ type Tree struct {
 	Within []*Tree
 }
 
-// NewTree makes the tree of files, and all trees within it. The order of
+// Tree makes the tree of files, and all trees within it. The order of
 // paths is that of the entries already: where names are alike up to a tree's
 // end, a `/` stands behind it there too.
-func NewTree(list files.List) *Tree {
+func (m *Maker) Tree(list files.List) *Tree {
 	t := &Tree{}
 	var content strings.Builder
 	for len(list) > 0 {
@@ -30,12 +30,12 @@ func NewTree(list files.List) *Tree {
 			continue
 		}
 		inside := below(list, name+"/")
-		within := NewTree(inside)
+		within := m.Tree(inside)
 		writeEntry(&content, treeMode, name, within.Id)
 		t.Within = append(t.Within, within)
 		list = list[len(inside):]
 	}
-	t.Object = newObject(api.Tree, content.String())
+	t.Object = m.object(api.Tree, content.String())
 	return t
 }
 

@@ -13,10 +13,10 @@ const (
 )
 
 // Of gives the sum of a text's bytes.
-func Of(text string) [Size]byte {
-	state := start
+func (c *Constants) Of(text string) [Size]byte {
+	state := c.first
 	for rest := padded(text); len(rest) > 0; rest = rest[blockSize:] {
-		state = mixed(state, schedule(rest[:blockSize]))
+		state = mixed(state, c.added, schedule(rest[:blockSize]))
 	}
 	var sum [Size]byte
 	for i := range sum {
@@ -40,8 +40,8 @@ func padded(text string) []byte {
 }
 
 // schedule spreads a block's 16 words over all rounds.
-func schedule(block []byte) [len(rounds)]uint32 {
-	var w [len(rounds)]uint32
+func schedule(block []byte) [roundWords]uint32 {
+	var w [roundWords]uint32
 	for i := range blockSize {
 		w[i/4] = w[i/4]<<8 | uint32(block[i])
 	}
@@ -55,13 +55,13 @@ func schedule(block []byte) [len(rounds)]uint32 {
 }
 
 // mixed gives the state behind a block. The letters are those of FIPS 180-4.
-func mixed(state [8]uint32, w [len(rounds)]uint32) [8]uint32 {
+func mixed(state [startWords]uint32, added, w [roundWords]uint32) [startWords]uint32 {
 	a, b, c, d := state[0], state[1], state[2], state[3]
 	e, f, g, h := state[4], state[5], state[6], state[7]
 	for i := range w {
 		s1 := turned(e, 6) ^ turned(e, 11) ^ turned(e, 25)
 		choice := e&f ^ ^e&g
-		t1 := h + s1 + choice + rounds[i] + w[i]
+		t1 := h + s1 + choice + added[i] + w[i]
 		s0 := turned(a, 2) ^ turned(a, 13) ^ turned(a, 22)
 		majority := a&b ^ a&c ^ b&c
 		t2 := s0 + majority

@@ -5,6 +5,7 @@ import (
 	"braid/api"
 	"braid/command"
 	"braid/history"
+	"braid/journal"
 )
 
 // Check tells whether a text is a stream (P3).
@@ -15,7 +16,8 @@ func Check(stream string) (int, api.Errno) {
 
 // Store is one.
 type Store struct {
-	past *history.History
+	past    *history.History
+	journal journal.Journal
 }
 
 // New makes an empty store (P4).
@@ -27,7 +29,11 @@ func (s *Store) Import(stream string) (int, api.Errno) {
 	if err != api.OK {
 		return n, err
 	}
-	return command.Do(s.past, commands)
+	n, err = command.Do(s.past, commands)
+	if err == api.OK {
+		s.journal.Add(stream)
+	}
+	return n, err
 }
 
 // Refs tells all refs (P6).
@@ -62,10 +68,23 @@ func (s *Store) Files(id string) ([]string, api.Errno) {
 }
 
 // Bytes tells the store as bytes (P8).
-func (s *Store) Bytes() []byte { return nil }
+func (s *Store) Bytes() []byte { return s.journal.Bytes() }
 
-// Open makes a store of bytes (P9).
-func Open(b []byte) (*Store, api.Errno) { return New(), api.OK }
+// Open makes a store of bytes (P9): what the streams in them did once, they do
+// again.
+func Open(b []byte) (*Store, api.Errno) {
+	streams, err := journal.Read(b)
+	if err != api.OK {
+		return nil, err
+	}
+	s := New()
+	for _, stream := range streams {
+		if _, err := s.Import(stream); err != api.OK {
+			return nil, api.ErrStore
+		}
+	}
+	return s, api.OK
+}
 
 // Export makes a stream of all that is named (P10, P11).
 func (s *Store) Export(rules ...api.Rule) (string, api.Errno) { return "", api.OK }

@@ -33,7 +33,8 @@ func stores(t *testing.T) []*braid.Store {
 		full.Import(stream)
 	}
 	all := []*braid.Store{braid.New(), full}
-	for _, text := range append(oddTexts(), string(braid.New().Bytes())) {
+	b := full.Bytes()
+	for _, text := range append(oddTexts(), string(braid.New().Bytes()), string(b), string(b[:len(b)/2]), string(b)+"x") {
 		if s, err := braid.Open([]byte(text)); err == api.OK {
 			all = append(all, s)
 		}

@@ -1,6 +1,7 @@
 package braid_test
 
 import (
+	"bytes"
 	"slices"
 	"strings"
 	"sync"
@@ -189,7 +190,7 @@ func TestStoresSideBySide(t *testing.T) {
 	for _, stream := range seeds() {
 		first.Import(stream)
 	}
-	want := tell(first)
+	want := momentOf(first)
 	var wait sync.WaitGroup
 	for range 8 {
 		wait.Add(1)
@@ -199,7 +200,7 @@ func TestStoresSideBySide(t *testing.T) {
 			for _, stream := range seeds() {
 				s.Import(stream)
 			}
-			if !same(tell(s), want) {
+			if !same(tell(s), want.told) || !bytes.Equal(s.Bytes(), want.bytes) {
 				t.Error("P2: the same streams made another store")
 			}
 		}()
@@ -218,7 +219,7 @@ func TestTextsAreNotKept(t *testing.T) {
 		t.Fatalf("P4: Import = %d, %d", n, err)
 	}
 	spoil(room, '#')
-	if !same(tell(s), tell(other)) {
+	if !same(tell(s), tell(other)) || !bytes.Equal(s.Bytes(), other.Bytes()) {
 		t.Errorf("P2: the stream was kept: %v", tell(other))
 	}
 }

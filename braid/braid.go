@@ -4,6 +4,7 @@ package braid
 import (
 	"braid/api"
 	"braid/command"
+	"braid/export"
 	"braid/history"
 	"braid/journal"
 )
@@ -87,4 +88,6 @@ func Open(b []byte) (*Store, api.Errno) {
 }
 
 // Export makes a stream of all that is named (P10, P11).
-func (s *Store) Export(rules ...api.Rule) (string, api.Errno) { return "", api.OK }
+func (s *Store) Export(rules ...api.Rule) (string, api.Errno) {
+	return export.Stream(s.past, rules)
+}

@@ -99,6 +99,7 @@ func (f modelFiles) atOrBelow(top string) []string {
 			all = append(all, path)
 		}
 	}
+	slices.Sort(all) // a change that is wrong half way leaves the same half each time
 	return all
 }
 

@@ -1,4 +1,5 @@
-// Package command takes streams apart into their commands, and does these.
+// Package command takes streams apart into their commands, does these, and
+// writes them as streams again.
 package command
 
 import (
@@ -38,20 +39,21 @@ type Change struct {
 	Path, To string
 }
 
-// row is what the table knows of one command: how it is read, and what it
-// does.
+// row is what the table knows of one command: how it is read, what it does,
+// and how it is written.
 type row struct {
-	word string
-	read func(r *reader, c *Command)
-	do   func(w *work, c Command) api.Errno
+	word  string
+	read  func(r *reader, c *Command)
+	do    func(w *work, c Command) api.Errno
+	write func(w *writer, c Command)
 }
 
 func table() []row {
 	return []row{
-		{word: "blob", read: readBlob, do: doBlob},
-		{word: "commit", read: readCommit, do: doCommit},
-		{word: "tag", read: readTag, do: doTag},
-		{word: "reset", read: readReset, do: doReset},
+		{word: "blob", read: readBlob, do: doBlob, write: writeBlob},
+		{word: "commit", read: readCommit, do: doCommit, write: writeCommit},
+		{word: "tag", read: readTag, do: doTag, write: writeTag},
+		{word: "reset", read: readReset, do: doReset, write: writeReset},
 	}
 }
 

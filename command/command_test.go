@@ -9,13 +9,13 @@ import (
 	"braid/object"
 )
 
-// TestTable: each command has one row, and the row can read and do it.
+// TestTable: each command has one row, and the row can read, do and write it.
 func TestTable(t *testing.T) {
 	var all []string
 	for _, known := range table() {
 		all = append(all, known.word)
-		if known.read == nil || known.do == nil {
-			t.Errorf("%s: no way to read it, or to do it", known.word)
+		if known.read == nil || known.do == nil || known.write == nil {
+			t.Errorf("%s: no way to read it, to do it, or to write it", known.word)
 		}
 	}
 	if got := strings.Join(all, " "); got != "blob commit tag reset" {

@@ -25,7 +25,7 @@ func (l List) Put(f File) (List, api.Errno) {
 
 // Delete takes away what lies at a path and below it.
 func (l List) Delete(path string) List {
-	return l.without(func(p string) bool { return isWithin(p, path) })
+	return l.without(func(p string) bool { return IsWithin(p, path) })
 }
 
 // Copy has what lies at a path and below it lie at another one too.
@@ -47,11 +47,46 @@ func (l List) Move(from, to string) (List, api.Errno) {
 	return l.Delete(from).withoutAround(to).with(taken)
 }
 
+// Remade has each file lie, as by Put and in their order, at the path that
+// goes gives for its own. Those for which it gives none, or one that is too
+// long, are left out.
+func (l List) Remade(goes func(path string) (string, bool)) List {
+	var all List
+	for _, f := range l {
+		path, ok := goes(f.Path)
+		f.Path = path
+		if ok && !isTooLong(f) {
+			all = all.withoutAround(path).joined(List{f})
+		}
+	}
+	return all
+}
+
+// Since tells how a list differs from an earlier one: the files whose paths
+// are gone, and those that are new or other ones.
+func (l List) Since(before List) (gone, put List) {
+	for _, f := range before {
+		if !l.has(f.Path) {
+			gone = append(gone, f)
+		}
+	}
+	for _, f := range l {
+		if !slices.Contains(before, f) {
+			put = append(put, f)
+		}
+	}
+	return gone, put
+}
+
+func (l List) has(path string) bool {
+	return slices.ContainsFunc(l, func(f File) bool { return f.Path == path })
+}
+
 // taken gives what lies at a path and below it, as it will lie at the other.
 func (l List) taken(from, to string) (List, api.Errno) {
 	var all List
 	for _, f := range l {
-		if isWithin(f.Path, from) {
+		if IsWithin(f.Path, from) {
 			f.Path = to + strings.TrimPrefix(f.Path, from)
 			all = append(all, f)
 		}
@@ -73,7 +108,7 @@ func isTooLong(f File) bool {
 // lies there, below it or above it.
 func (l List) withoutAround(path string) List {
 	return l.without(func(p string) bool {
-		return isWithin(p, path) || isWithin(path, p)
+		return IsWithin(p, path) || IsWithin(path, p)
 	})
 }
 
@@ -88,16 +123,21 @@ func (l List) without(gone func(path string) bool) List {
 }
 
 func (l List) with(more List) (List, api.Errno) {
-	all := slices.Concat(l, more)
+	all := l.joined(more)
 	if len(all) > api.MaxFiles {
 		return nil, api.ErrLimit
 	}
-	slices.SortFunc(all, func(a, b File) int { return cmp.Compare(a.Path, b.Path) })
 	return all, api.OK
 }
 
-// isWithin tells whether a path is another one or lies below it.
-func isWithin(path, top string) bool {
+func (l List) joined(more List) List {
+	all := slices.Concat(l, more)
+	slices.SortFunc(all, func(a, b File) int { return cmp.Compare(a.Path, b.Path) })
+	return all
+}
+
+// IsWithin tells whether a path is another one or lies below it.
+func IsWithin(path, top string) bool {
 	rest, ok := strings.CutPrefix(path, top)
 	return ok && (rest == "" || rest[0] == '/')
 }

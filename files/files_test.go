@@ -200,3 +200,87 @@ func TestTooManyFiles(t *testing.T) {
 		t.Errorf("Move of 60 below themselves: %d files, %d", len(got), err)
 	}
 }
+
+// TestRemade: each file goes as by Put, one behind the other.
+func TestRemade(t *testing.T) {
+	long := strings.Repeat("twelve-bytes/", 4)
+	for _, c := range []struct{ before, goes, after string }{
+		{"", "", ""},
+		{"a b/c", "", "a b/c"},
+		{"a b/c d", "a:z b/c:x", "d x=b/c z=a"},
+		{"a b c", "b:", "a c"},
+		{"a b c", "a: b: c:", ""},
+		{"a b", "a:b", "b"},
+		{"a b", "b:a", "a=b"},
+		{"a b", "a:b b:a", "a=b b=a"},
+		{"a b/c b/d", "a:b", "b/c b/d"},
+		{"a/c a/d b", "b:a", "a=b"},
+		{"a b", "b:a/b/c", "a/b/c=b"},
+		{"a b", "a:b/c/d", "b"},
+		{"a ab", "ab:a/b", "a/b=ab"},
+		{"a b", "a:1/2/3/4/5/6", "1/2/3/4/5/6=a b"},
+		{"a b", "a:1/2/3/4/5/6/7", "b"},
+		{"a b", "b:a/2/3/4/5/6/7", "a"},
+		{"a b", "a:" + long + "12345678", "b " + long + "12345678=a"},
+		{"a b", "a:" + long + "123456789", "b"},
+	} {
+		goes := map[string]string{}
+		for _, pair := range strings.Fields(c.goes) {
+			from, to, _ := strings.Cut(pair, ":")
+			goes[from] = to
+		}
+		before := list(strings.Fields(c.before)...)
+		kept := slices.Clone(before)
+		got := before.Remade(func(path string) (string, bool) {
+			to, ok := goes[path]
+			if !ok {
+				return path, true
+			}
+			return to, to != ""
+		})
+		if text(got) != c.after {
+			t.Errorf("%s, Remade by %s: %s, want %s", c.before, c.goes, text(got), c.after)
+		}
+		if !slices.Equal(before, kept) {
+			t.Errorf("Remade by %s changed the list it was done to", c.goes)
+		}
+	}
+	if got := many(60, "a").Remade(func(path string) (string, bool) { return "b" + path, true }); len(got) != 60 || got[59].Path != "ba9" {
+		t.Errorf("Remade of 60: %s", text(got))
+	}
+}
+
+func TestSince(t *testing.T) {
+	for _, c := range []struct{ before, after, gone, put string }{
+		{"", "", "", ""},
+		{"", "a b", "", "a b"},
+		{"a b", "", "a b", ""},
+		{"a b", "a b", "", ""},
+		{"a b c", "b d e", "a c", "d e"},
+		{"a b/c b/d", "a/b b", "a b/c b/d", "a/b b"},
+		{"a", "A", "a", "A"},
+	} {
+		gone, put := list(strings.Fields(c.after)...).Since(list(strings.Fields(c.before)...))
+		if text(gone) != c.gone || text(put) != c.put {
+			t.Errorf("%s since %s: gone %s, put %s", c.after, c.before, text(gone), text(put))
+		}
+	}
+	before := List{{"a", "100644", "1"}, {"b", "100644", "1"}, {"c", "100644", "1"}}
+	after := List{{"a", "100644", "2"}, {"b", "100755", "1"}, {"c", "100644", "1"}}
+	if gone, put := after.Since(before); len(gone) != 0 || !slices.Equal(put, after[:2]) {
+		t.Errorf("another blob and another mode: gone %v, put %v", gone, put)
+	}
+}
+
+func TestIsWithin(t *testing.T) {
+	for _, c := range []struct {
+		path, top string
+		want      bool
+	}{
+		{"a", "a", true}, {"a/b", "a", true}, {"a/b/c", "a/b", true}, {"a", "a/b", false}, {"ab", "a", false}, {"a-b", "a", false}, {"b/a", "a", false}, {"a/bc", "a/b", false},
+	} {
+		if got := IsWithin(c.path, c.top); got != c.want {
+			t.Errorf("IsWithin(%s, %s) = %t", c.path, c.top, got)
+		}
+	}
+}

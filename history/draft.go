@@ -38,7 +38,7 @@ func (d *Draft) Ref(name string) *object.Commit {
 	if commit, ok := d.made.refs[name]; ok {
 		return commit
 	}
-	return d.past.refs[name]
+	return d.past.Ref(name)
 }
 
 // SetRef has a ref name a commit, or, if that is nil, be no more.

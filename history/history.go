@@ -46,6 +46,16 @@ func (h *History) Tags() []api.Ref {
 	return all
 }
 
+// Ref gives the commit that a ref names, or nil.
+func (h *History) Ref(name string) *object.Commit {
+	return h.refs[name]
+}
+
+// Tag gives the tag of a name, or nil.
+func (h *History) Tag(name string) *object.Tag {
+	return h.tags[name]
+}
+
 // Ids tells the ids of all objects, in order.
 func (h *History) Ids() []string {
 	return slices.Sorted(maps.Keys(h.objects))

@@ -37,8 +37,14 @@ func TestDraft(t *testing.T) {
 	if _, ok := h.Commit(one.Id); ok {
 		t.Error("the history has a draft's commit")
 	}
+	if h.Ref("m") != nil || h.Tag("v") != nil {
+		t.Error("the history has a draft's ref or tag")
+	}
 	d.Keep()
 	holdRefs(t, "refs", h.Refs(), api.Ref{Name: "m", Id: one.Id})
+	if h.Ref("m") != one || h.Ref("v") != nil || h.Tag("m") != nil || h.Tag("v") == nil || h.Tag("v").Commit != one {
+		t.Error("the history does not know its refs and tags")
+	}
 	d = h.Draft()
 	d.SetRef("m", nil)
 	d.SetRef("n", two)
@@ -98,6 +104,9 @@ func TestTagAgain(t *testing.T) {
 		d.Keep()
 	}
 	holdRefs(t, "tags", h.Tags(), api.Ref{Name: "v", Id: second.Id})
+	if h.Tag("v") != second {
+		t.Errorf("the tag is %v", h.Tag("v"))
+	}
 	if len(h.Ids()) != 2 {
 		t.Errorf("there are %d objects", len(h.Ids()))
 	}

@@ -3,6 +3,7 @@ package object
 import (
 	"crypto/sha256"
 	"encoding/hex"
+	"slices"
 	"strconv"
 	"testing"
 
@@ -110,13 +111,16 @@ func TestCommit(t *testing.T) {
 	if len(next.Files) != 1 || next.Files[0] != list[0] {
 		t.Errorf("the commit's files are %v", next.Files)
 	}
+	if len(root.Parents) != 0 || !slices.Equal(next.Parents, []*Commit{root, root}) || next.Author != author || next.Message != "\nmore\n\n" {
+		t.Errorf("the commit was made of %v, %v, %q", next.Parents, next.Author, next.Message)
+	}
 }
 
 func TestTag(t *testing.T) {
 	commit := NewMaker().Commit(nil, NewMaker().Tree(nil), nil, Author{Name: "A", Mail: "a"}, "")
 	tag := NewMaker().Tag("v/1", commit, "x\n")
 	hold(t, tag.Object, api.Tag, "tag", "object "+commit.Id+"\ntag v/1\n\nx\n")
-	if tag.Name != "v/1" {
-		t.Errorf("the tag's name is %s", tag.Name)
+	if tag.Name != "v/1" || tag.Commit != commit || tag.Message != "x\n" {
+		t.Errorf("the tag was made of %s, %v, %q", tag.Name, tag.Commit, tag.Message)
 	}
 }
